@@ -1,61 +1,22 @@
 package wire
 
-import "tabulary/api"
+import "tabulary/coding"
 
-// maxNumBytes: MaxNum is written in as many; a longer number is above it, or not as short as can be.
-const maxNumBytes = 5
-
-// reader goes through bytes. A method that answers false leaves the reader where it is.
+// reader goes through numbers and texts as each layer does, and through frames besides.
 type reader struct {
-	bytes []byte
-	at    int
+	coding.Reader
 }
 
-func (r *reader) done() bool {
-	return r.at == len(r.bytes)
+func readerOf(b []byte) reader {
+	return reader{coding.ReaderOf(b)}
 }
 
-func (r *reader) left() int {
-	return len(r.bytes) - r.at
-}
-
-// num reads a written number.
-func (r *reader) num() (int, bool) {
-	n := 0
-	for i := range min(maxNumBytes, r.left()) {
-		x := r.bytes[r.at+i]
-		n |= int(x&0x7f) << (7 * i)
-		if x >= 0x80 {
-			continue
-		}
-		if x == 0 && i > 0 || n > api.MaxNum {
-			return 0, false
-		}
-		r.at += i + 1
-		return n, true
-	}
-	return 0, false
-}
-
-// text reads a written text.
-func (r *reader) text() (string, bool) {
-	start := r.at
-	n, ok := r.num()
-	if !ok || n > r.left() {
-		r.at = start
-		return "", false
-	}
-	t := string(r.bytes[r.at : r.at+n])
-	r.at += n
-	return t, true
-}
-
-// frame reads a whole frame with its sum, and answers its body in memory of its own.
+// frame reads a whole frame with its sum, and answers its body in memory of its own. If there is none, the reader stays where it is.
 func (r *reader) frame() ([]byte, bool) {
-	if r.left() < headBytes+sumBytes {
+	b := r.Rest()
+	if len(b) < headBytes+sumBytes {
 		return nil, false
 	}
-	b := r.bytes[r.at:]
 	n := int(b[0])<<8 | int(b[1])
 	if n > len(b)-headBytes-sumBytes {
 		return nil, false
@@ -66,8 +27,7 @@ func (r *reader) frame() ([]byte, bool) {
 	}
 	body := make([]byte, n)
 	copy(body, b[headBytes:end])
-	r.at += end + sumBytes
-	return body, true
+	return body, r.Skip(end + sumBytes)
 }
 
 // highFirst: the number that bytes, at most four, tell with the highest one first.

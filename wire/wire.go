@@ -1,7 +1,10 @@
 // Package wire writes numbers, texts and frames as bytes, and reads them again: see doc/01-wire.md.
 package wire
 
-import "tabulary/api"
+import (
+	"tabulary/api"
+	"tabulary/coding"
+)
 
 // Nums writes numbers, one behind the other.
 func Nums(l []int) ([]byte, api.Fault) {
@@ -13,7 +16,7 @@ func Nums(l []int) ([]byte, api.Fault) {
 		if n < 0 || n > api.MaxNum {
 			return nil, api.Fault{Code: api.ErrRange, At: i}
 		}
-		out = appendNum(out, n)
+		out = coding.AppendNum(out, n)
 	}
 	return out, api.Fault{}
 }
@@ -23,10 +26,10 @@ func ReadNums(b []byte) ([]int, api.Fault) {
 	if len(b) > api.MaxBytes {
 		return nil, api.Fault{Code: api.ErrSize}
 	}
-	r := reader{bytes: b}
+	r := readerOf(b)
 	var out []int
-	for !r.done() {
-		n, ok := r.num()
+	for !r.Done() {
+		n, ok := r.Num()
 		if !ok {
 			return nil, api.Fault{Code: api.ErrForm, At: len(out)}
 		}
@@ -46,7 +49,7 @@ func Texts(l []string) ([]byte, api.Fault) {
 	}
 	var out []byte
 	for _, t := range l {
-		out = appendNum(out, len(t))
+		out = coding.AppendNum(out, len(t))
 		// Asked ahead of the text's bytes, which may be many more than can come out.
 		if len(out)+len(t) > api.MaxBytes {
 			return nil, api.Fault{Code: api.ErrMuch}
@@ -61,10 +64,10 @@ func ReadTexts(b []byte) ([]string, api.Fault) {
 	if len(b) > api.MaxBytes {
 		return nil, api.Fault{Code: api.ErrSize}
 	}
-	r := reader{bytes: b}
+	r := readerOf(b)
 	var out []string
-	for !r.done() {
-		t, ok := r.text()
+	for !r.Done() {
+		t, ok := r.Text()
 		if !ok {
 			return nil, api.Fault{Code: api.ErrForm, At: len(out)}
 		}
@@ -106,12 +109,12 @@ func Open(b []byte) ([][]byte, int, api.Fault) {
 	if len(b) > api.MaxBytes {
 		return nil, 0, api.Fault{Code: api.ErrSize}
 	}
-	r := reader{bytes: b}
+	r := readerOf(b)
 	var out [][]byte
 	for {
 		body, ok := r.frame()
 		if !ok {
-			return out, r.at, api.Fault{}
+			return out, r.At(), api.Fault{}
 		}
 		if len(out) == api.MaxList {
 			return nil, 0, api.Fault{Code: api.ErrMany}

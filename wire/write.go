@@ -6,15 +6,6 @@ const (
 	sumBytes  = 4
 )
 
-// appendNum writes a number that is not negative behind bytes.
-func appendNum(out []byte, n int) []byte {
-	for n >= 0x80 {
-		out = append(out, byte(n&0x7f)|0x80)
-		n >>= 7
-	}
-	return append(out, byte(n))
-}
-
 // appendFrame writes the frame of a body, of at most 65535 bytes, behind bytes.
 func appendFrame(out, body []byte) []byte {
 	start := len(out)
