@@ -1,4 +1,4 @@
-// Package coding writes numbers and texts behind bytes, and goes through bytes that have them one behind the other, of both kinds mixed: what several layers need. How they are written says doc/01-wire.md.
+// Package coding writes numbers, texts and frames behind bytes, and goes through bytes that have them one behind the other, mixed, and however many: what several layers need. How they are written says doc/01-wire.md.
 package coding
 
 import "tabulary/api"

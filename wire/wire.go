@@ -2,6 +2,8 @@
 package wire
 
 import (
+	"bytes"
+
 	"tabulary/api"
 	"tabulary/coding"
 )
@@ -26,7 +28,7 @@ func ReadNums(b []byte) ([]int, api.Fault) {
 	if len(b) > api.MaxBytes {
 		return nil, api.Fault{Code: api.ErrSize}
 	}
-	r := readerOf(b)
+	r := coding.ReaderOf(b)
 	var out []int
 	for !r.Done() {
 		n, ok := r.Num()
@@ -64,7 +66,7 @@ func ReadTexts(b []byte) ([]string, api.Fault) {
 	if len(b) > api.MaxBytes {
 		return nil, api.Fault{Code: api.ErrSize}
 	}
-	r := readerOf(b)
+	r := coding.ReaderOf(b)
 	var out []string
 	for !r.Done() {
 		t, ok := r.Text()
@@ -85,7 +87,7 @@ func Sum(b []byte) (uint32, api.Fault) {
 	if len(b) > api.MaxBytes {
 		return 0, api.Fault{Code: api.ErrSize}
 	}
-	return remainder(b), api.Fault{}
+	return coding.Sum(b), api.Fault{}
 }
 
 // Frames writes frames of bodies, one behind the other.
@@ -96,10 +98,10 @@ func Frames(bodies [][]byte) ([]byte, api.Fault) {
 	var out []byte
 	for _, body := range bodies {
 		// A body that passes has a length that two bytes can tell.
-		if len(out)+headBytes+len(body)+sumBytes > api.MaxBytes {
+		if len(out)+len(body)+coding.FrameBytes > api.MaxBytes {
 			return nil, api.Fault{Code: api.ErrMuch}
 		}
-		out = appendFrame(out, body)
+		out = coding.AppendFrame(out, body)
 	}
 	return out, api.Fault{}
 }
@@ -109,16 +111,16 @@ func Open(b []byte) ([][]byte, int, api.Fault) {
 	if len(b) > api.MaxBytes {
 		return nil, 0, api.Fault{Code: api.ErrSize}
 	}
-	r := readerOf(b)
+	r := coding.ReaderOf(b)
 	var out [][]byte
 	for {
-		body, ok := r.frame()
+		body, ok := r.Frame()
 		if !ok {
 			return out, r.At(), api.Fault{}
 		}
 		if len(out) == api.MaxList {
 			return nil, 0, api.Fault{Code: api.ErrMany}
 		}
-		out = append(out, body)
+		out = append(out, bytes.Clone(body))
 	}
 }
