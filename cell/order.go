@@ -1,29 +1,18 @@
 package cell
 
 import (
-	"cmp"
 	"slices"
 
 	"tabulary/api"
+	"tabulary/view"
 )
-
-// order is below 0 if a stands ahead of b, above 0 if behind it, and 0 if both have one Row, Col and Time.
-func order(a, b api.Cell) int {
-	if c := cmp.Compare(a.Row, b.Row); c != 0 {
-		return c
-	}
-	if c := cmp.Compare(a.Col, b.Col); c != 0 {
-		return c
-	}
-	return cmp.Compare(b.Time, a.Time)
-}
 
 // runs cuts cells, just where one does not stand behind the one ahead, into lists that are in order. They are pieces of l.
 func runs(l []api.Cell) [][]api.Cell {
 	var out [][]api.Cell
 	start := 0
 	for i := range l {
-		if i+1 == len(l) || order(l[i], l[i+1]) >= 0 {
+		if i+1 == len(l) || view.Order(l[i], l[i+1]) >= 0 {
 			out = append(out, l[start:i+1])
 			start = i + 1
 		}
@@ -46,7 +35,7 @@ func merged(lists ...[]api.Cell) []api.Cell {
 func mergedTwo(a, b []api.Cell) []api.Cell {
 	out := make([]api.Cell, 0, len(a)+len(b))
 	for len(a) > 0 && len(b) > 0 {
-		at := order(a[0], b[0])
+		at := view.Order(a[0], b[0])
 		if at < 0 {
 			out = append(out, a[0])
 			a = a[1:]
