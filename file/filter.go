@@ -3,6 +3,7 @@ package file
 import (
 	"tabulary/api"
 	"tabulary/coding"
+	"tabulary/view"
 )
 
 // probes: so many bits are of a row.
@@ -11,14 +12,9 @@ const probes = 3
 // filter: bits of rows. It has at least one byte.
 type filter []byte
 
-// filterOf cells that are in order: one row's cells stand behind one another.
+// filterOf cells that are in order.
 func filterOf(l []api.Cell) filter {
-	var rows []string
-	for i, c := range l {
-		if i == 0 || c.Row != l[i-1].Row {
-			rows = append(rows, c.Row)
-		}
-	}
+	rows := view.Rows(l)
 	out := make(filter, max(len(rows), 1))
 	for _, row := range rows {
 		for _, place := range out.placesOf(row) {

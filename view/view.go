@@ -1,4 +1,4 @@
-// Package view has how cells stand in order, and which of them are seen at a time: what several layers need, of however many cells. What it means says doc/03-cell.md.
+// Package view has how cells stand in order, which rows they have, and which of them are seen at a time: what several layers need, of however many cells. What it means says doc/03-cell.md.
 package view
 
 import (
@@ -59,6 +59,22 @@ func AskFault(a api.Ask) api.Fault {
 func AskedFor(a api.Ask) func(api.Cell) bool {
 	isSeen := SeenAt(a.Time)
 	return func(c api.Cell) bool {
-		return isSeen(c) && c.Row >= a.From && (a.To == "" || c.Row < a.To)
+		return isSeen(c) && IsBetween(c.Row, a.From, a.To)
 	}
+}
+
+// IsBetween tells whether a row is one of those from from on, ahead of to (without an end, if to is empty).
+func IsBetween(row, from, to string) bool {
+	return row >= from && (to == "" || row < to)
+}
+
+// Rows of cells that are in order, each row once, rising.
+func Rows(l []api.Cell) []string {
+	var out []string
+	for i, c := range l {
+		if i == 0 || c.Row != l[i-1].Row {
+			out = append(out, c.Row)
+		}
+	}
+	return out
 }

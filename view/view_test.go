@@ -107,6 +107,29 @@ func TestAskedFor(t *testing.T) {
 	}
 }
 
+func TestIsBetween(t *testing.T) {
+	for _, c := range []struct {
+		row, from, to string
+		want          bool
+	}{
+		{"b", "", "", true}, {"", "", "", true}, {"b", "b", "", true}, {"b", "b", "b\x00", true}, {"b", "a", "c", true}, {"\xff", "é", "", true},
+		{"b", "b\x00", "", false}, {"b", "", "b", false}, {"b", "b", "b", false}, {"b", "c", "a", false}, {"b", "c", "d", false}, {"", "a", "", false},
+	} {
+		if view.IsBetween(c.row, c.from, c.to) != c.want {
+			t.Errorf("IsBetween of %q, %q and %q is %v", c.row, c.from, c.to, !c.want)
+		}
+	}
+}
+
+func TestRows(t *testing.T) {
+	all := []string{"Z", "a", "ab", "é", "\xff"}
+	for n, want := range map[int][]string{0: nil, 1: all[:1], 2: all[:2], 7: all[:2], 8: all[:3], 9: all[:3], 11: all} {
+		if got := view.Rows(inOrder()[:n]); !slices.Equal(got, want) {
+			t.Errorf("rows of %d cells: %q, want %q", n, got, want)
+		}
+	}
+}
+
 func TestAskFault(t *testing.T) {
 	for _, time := range []int{0, 7, api.MaxNum} {
 		for _, many := range []int{0, 7, api.MaxList} {
