@@ -7,7 +7,7 @@ import (
 	"tabulary/api"
 )
 
-// IsNum tells whether a number is one that may be a time, and can be written.
+// IsNum tells whether a number is one that may be a time or an ID, and can be written.
 func IsNum(n int) bool {
 	return n >= 0 && n <= api.MaxNum
 }
